@@ -321,6 +321,30 @@ func TestLongTexts(t *testing.T) {
 	}
 }
 
+// P4.1: one word twice, of any number of bytes up to some thousand: as many are alike, be it that another byte comes then or
+// that the text is over; or fewer, if one byte of the second word is another one.
+func TestManyAlike(t *testing.T) {
+	for n := range 2100 {
+		word := strings.Repeat("abaab", n/5+1)[:n]
+		checkAlike(t, word+"x"+word+"y", n+1, n)
+		checkAlike(t, word+"x"+word, n+1, n)
+		checkAlike(t, word+"x"+word+"xb", n+1, n+1)
+		checkAlike(t, strings.Repeat("a", n+3), 3, n)
+		other := []byte(strings.Repeat("b", 4200))
+		other[2100+n] = 'c'
+		checkAlike(t, string(other), 2100, n)
+	}
+}
+
+// checkAlike holds Common of the whole text and the ending i, either way round, against a number.
+func checkAlike(t *testing.T, s string, i, want int) {
+	t.Helper()
+	b := []byte(s)
+	if one, other := Common(b, 0, i), Common(b, i, 0); one != want || other != want {
+		t.Fatalf("of %d bytes at 0 and %d, %d or %d are told to be alike, not %d", len(s), i, one, other, want)
+	}
+}
+
 // The chapter's example, and all endings and rotations of it in order.
 func TestBanana(t *testing.T) {
 	b := []byte("banana")
